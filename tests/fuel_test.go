@@ -425,11 +425,11 @@ func TestWalkOnlyReads(t *testing.T) {
 		l = append(l, playerProgram(r))
 	}
 	for _, p := range l {
-		want := impl.Walk(p, 300)
 		var k tracker
 		q := k.program(p)
 		before := k.picture()
 		got, again := impl.Walk(q, 300), impl.Walk(q, 300)
+		want := impl.Walk(p, 300)
 		if !sameResult(got, want) {
 			t.Fatalf("what lies behind the lists of %q is read", impl.ProgText(p))
 		}

@@ -689,7 +689,6 @@ func TestProgramsAreOnlyRead(t *testing.T) {
 		l = append(l, m.program(2))
 	}
 	for _, p := range l {
-		want := answers(p)
 		var k tracker
 		q := k.program(p)
 		before := k.picture()
@@ -697,7 +696,7 @@ func TestProgramsAreOnlyRead(t *testing.T) {
 		if k.picture() != before {
 			t.Fatalf("%q is changed", impl.ProgText(p))
 		}
-		if got != want || answers(q) != want {
+		if want := answers(p); got != want || answers(q) != want {
 			t.Fatalf("what lies behind the lists of %q is read", impl.ProgText(p))
 		}
 	}
