@@ -319,15 +319,7 @@ func TestMadeCounts(t *testing.T) {
 	m := builder{rand.New(rand.NewSource(9))}
 	for range 6000 {
 		a := m.arena()
-		roots := m.roots(a)
-		for n, refs := range plainRefs(a, roots) {
-			if a.Slots[n].Live && refs == 0 {
-				roots = append(roots, refTo(n, a.Slots[n].Gen))
-			}
-		}
-		for n, refs := range plainRefs(a, roots) {
-			a.Slots[n].Count = refs
-		}
+		a, roots := counted(a, m.roots(a))
 		if !impl.Counted(a, roots) {
 			t.Fatalf("%v, roots %v: Counted is false", a, roots)
 		}

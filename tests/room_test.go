@@ -69,9 +69,10 @@ func wantArena(t *testing.T, what string, a impl.Arena, want bool) {
 	}
 }
 
-// wantNothing: what each function answers where the arena is not ArenaOk.
+// wantNothing: what each function of an arena answers where it is not ArenaOk.
 func wantNothing(t *testing.T, what string, a impl.Arena) {
 	t.Helper()
+	wantNoCounting(t, what, a)
 	for _, v := range []impl.Val{nilVal(), numVal(3), refTo(0, 1), refTo(0, 0), refTo(1, 1), weakTo(0, 0), weakTo(0, 1), weakTo(1, 1), refTo(-1, 1), {Kind: 9}} {
 		if impl.Alive(a, v) || impl.ValOk(a, v) {
 			t.Errorf("%s: %v is told to be alive, or right", what, v)
