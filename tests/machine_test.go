@@ -13,7 +13,7 @@ import (
 	"loop.example/g00547/impl"
 )
 
-// The plain machine does an order on copies, by the plain reckoning of chapter 5.
+// The plain machine does orders on a copy, by the plain reckoning of chapter 5. On the way it asks for no bound.
 
 type plainMachine struct {
 	impl.Vm
@@ -25,6 +25,23 @@ func plainStep(v impl.Vm, fuel, do int) (impl.Vm, bool) {
 		return impl.Vm{}, false
 	}
 	k := plainMachine{Vm: copiedVm(v)}
+	k.step(fuel, do)
+	if !plainVmOk(k.Vm) {
+		return copiedVm(v), false
+	}
+	return k.Vm, true
+}
+
+// plainRun does order after order, whatever comes of them.
+func plainRun(v impl.Vm, fuel int, plan []int) impl.Vm {
+	k := plainMachine{Vm: copiedVm(v)}
+	for n := 0; n < mostOrders && len(k.Frames) > 0; n++ {
+		k.step(fuel, plannedAt(plan, k.Ticks))
+	}
+	return k.Vm
+}
+
+func (k *plainMachine) step(fuel, do int) {
 	f := &k.Frames[len(k.Frames)-1]
 	o := k.Code.Units[f.Unit].L[f.Pc]
 	f.Pc++
@@ -38,17 +55,19 @@ func plainStep(v impl.Vm, fuel, do int) (impl.Vm, bool) {
 	if len(k.Arena.Queue) > 300 {
 		k.Arena, _ = plainDrain(k.Arena)
 	}
-	if !plainVmOk(k.Vm) {
-		return copiedVm(v), false
-	}
-	return k.Vm, true
 }
 
-func (k *plainMachine) keep(v impl.Val) { k.Arena, _ = plainKeep(k.Arena, v) }
+func (k *plainMachine) keep(v impl.Val) {
+	if v.Kind == impl.VlRef {
+		k.Arena.Slots[v.N].Count++
+	}
+}
 
 func (k *plainMachine) drop(l ...impl.Val) {
 	for _, v := range l {
-		k.Arena, _ = plainDrop(k.Arena, v)
+		if v.Kind == impl.VlRef {
+			k.Arena.Queue = append(k.Arena.Queue, v.N)
+		}
 	}
 }
 

@@ -21,25 +21,27 @@ func plannedAt(plan []int, ticks int) int {
 	return plan[ticks%len(plan)]
 }
 
-// stepByStep does order after order; one that can't be done stays the next, however often it is tried.
-func stepByStep(v impl.Vm, fuel int, plan []int, most int) impl.Vm {
+// stepByStep does order after order, as long as VmStep does them: it is true where there is no end of that ahead of the run's.
+func stepByStep(v impl.Vm, fuel int, plan []int, most int) (impl.Vm, bool) {
 	for n := 0; n < most && len(v.Frames) > 0; n++ {
 		w, ok := impl.VmStep(v, fuel, plannedAt(plan, v.Ticks))
 		if !ok {
-			return v
+			return v, false
 		}
 		v = w
 	}
-	return v
+	return v, true
 }
 
-// wantRun is promise 9 of VmRun.
+// wantRun is promise 9 of VmRun: by the plain machine, which goes on past all bounds, and by VmStep, as far as that goes.
 func wantRun(t *testing.T, v impl.Vm, fuel int, plan []int) impl.Vm {
 	t.Helper()
 	w, ok := impl.VmRun(v, fuel, plan)
-	want := stepByStep(v, fuel, plan, mostOrders)
-	if !ok || !sameVm(w, want) || !impl.VmOk(w) {
+	if want := plainRun(v, fuel, plan); !ok || !sameVm(w, want) {
 		t.Fatalf("%s, fuel %d, plan %v:\n%s, %v; want\n%s", pictured(v), fuel, plan, pictured(w), ok, pictured(want))
+	}
+	if x, all := stepByStep(v, fuel, plan, mostOrders); all && (!sameVm(w, x) || !impl.VmOk(w)) {
+		t.Fatalf("%s, fuel %d, plan %v:\n%s; step by step\n%s", pictured(v), fuel, plan, pictured(w), pictured(x))
 	}
 	return w
 }
@@ -52,7 +54,7 @@ func wantPlay(t *testing.T, p impl.Prog, size, fuel int, plan []int) impl.Vm {
 	if !ok {
 		t.Fatalf("%q: there is no machine", impl.ProgText(p))
 	}
-	v = stepByStep(v, fuel, plan, math.MaxInt)
+	v, _ = stepByStep(v, fuel, plan, math.MaxInt)
 	r := impl.Play(p, size, fuel, plan)
 	if want := (impl.Result{Code: v.State, Log: v.Log, Ticks: v.Ticks}); !sameResult(r, want) || len(v.Frames) > 0 {
 		t.Fatalf("%q in %d, fuel %d, plan %v: %s; want %s", impl.ProgText(p), size, fuel, plan, picture(r), picture(want))
@@ -107,7 +109,7 @@ func TestRunGoesOn(t *testing.T) {
 		c, _ := impl.Compile(p)
 		v, _ := impl.VmNew(c, 1+i%impl.MaxCap)
 		plan := somePlan(r)
-		v = stepByStep(v, 100, plan, r.Intn(300))
+		v, _ = stepByStep(v, 100, plan, r.Intn(300))
 		w := wantRun(t, v, 100, plan)
 		if want := impl.Play(p, 1+i%impl.MaxCap, 100, plan); !sameResult(impl.Result{Code: w.State, Log: w.Log, Ticks: w.Ticks}, want) {
 			t.Fatalf("%q: %s; want %s", impl.ProgText(p), pictured(w), picture(want))
@@ -141,27 +143,6 @@ func TestRunStops(t *testing.T) {
 		if len(w.Frames) != 0 || w.State != impl.RsDone {
 			t.Errorf("%d orders, once more: %s", 19998+more, pictured(w))
 		}
-	}
-}
-
-// Where an order can't be done, that is as far as it goes, and true all the same.
-func TestRunStaysWhereItCantGoOn(t *testing.T) {
-	l := append(slices.Repeat([]impl.Ins{ins(impl.IxShow, 0, 0, 0)}, 298), ins(impl.IxJump, 0, 0, 0))
-	v := machineWith(codeOf(ended(0, 1, l...)), slots(1, thing(1, 0)), frame(0, 0, 0, refTo(0, 1)))
-	w := wantRun(t, v, 100, []int{1, 2})
-	if shows := mostLog / 6; len(w.Log) != shows*6 || w.Frames[0].Pc != shows%298 || w.Frames[0].Regs[0] != refTo(0, 1) {
-		t.Errorf("%s", pictured(w))
-	}
-	if x := wantRun(t, w, 100, nil); !sameVm(x, w) {
-		t.Errorf("%s goes on as %s", pictured(w), pictured(x))
-	}
-	// what is collected for an order that can't be done is there still
-	c := codeOf(ended(0, 1, impl.Ins{}, ins(impl.IxNew, 0, 0, 0), ins(impl.IxNil, 0, 0, 0), ins(impl.IxShow, 0, 0, 0), ins(impl.IxNew, 0, 0, 0)))
-	w = wantRun(t, machineWith(c, slots(1, hole(mostCount-1)), frame(0, 0, 0, nilVal())), 100, nil)
-	want := machineWith(c, queued(slots(1, thing(mostCount, 0)), 0), frame(0, 4, 0, nilVal()))
-	want.Ticks, want.Log = 1, []byte("nil\n")
-	if !sameVm(w, want) {
-		t.Errorf("%s; want %s", pictured(w), pictured(want))
 	}
 }
 

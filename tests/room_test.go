@@ -67,12 +67,14 @@ func wantArena(t *testing.T, what string, a impl.Arena, want bool) {
 	if len(impl.Refs(a, nil)) != len(a.Slots) || len(impl.Reached(a, nil)) != len(a.Slots) {
 		t.Errorf("%s: Refs %v, Reached %v", what, impl.Refs(a, nil), impl.Reached(a, nil))
 	}
+	wantArenaBack(t, what, a)
 }
 
 // wantNothing: what each function of an arena answers where it is not ArenaOk.
 func wantNothing(t *testing.T, what string, a impl.Arena) {
 	t.Helper()
 	wantNoCounting(t, what, a)
+	wantNoArenaBytes(t, what, a)
 	for _, v := range []impl.Val{nilVal(), numVal(3), refTo(0, 1), refTo(0, 0), refTo(1, 1), weakTo(0, 0), weakTo(0, 1), weakTo(1, 1), refTo(-1, 1), {Kind: 9}} {
 		if impl.Alive(a, v) || impl.ValOk(a, v) {
 			t.Errorf("%s: %v is told to be alive, or right", what, v)

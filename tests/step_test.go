@@ -193,9 +193,6 @@ func TestStepNewAtTheLastGen(t *testing.T) {
 			t.Errorf("%s: IxNew answers %s, %v", pictured(v), pictured(w), ok)
 		}
 		wantStepped(t, v, 100, impl.DoNothing)
-		if w, ok := impl.VmRun(v, 100, nil); !ok || !sameVm(w, v) {
-			t.Errorf("%s: VmRun answers %s, %v", pictured(v), pictured(w), ok)
-		}
 	}
 	refused(about(o, room(hole(mostCount)), nilVal()))
 	refused(about(o, room(hole(mostCount), hole(0)), nilVal())) // another slot is not tried
@@ -521,30 +518,16 @@ func TestStepDrainsALongQueue(t *testing.T) {
 
 // A thing may be counted mostCount times; a register more, and the machine is as it was.
 func TestStepAtTheLastCount(t *testing.T) {
-	var l []impl.Field
-	name := []byte("aaaaaa")
-	for len(l) < mostCount-2 {
-		l = append(l, impl.Field{Name: bytes.Clone(name), V: refTo(0, 1)})
-		at := 5
-		for name[at] == 'z' {
-			name[at] = 'a'
-			at--
-		}
-		name[at]++
-	}
 	move := codeOf(ended(0, 3, ins(impl.IxMove, 1, 0, 0), ins(impl.IxMove, 2, 0, 0), ins(impl.IxMove, 2, 0, 0)))
-	v := impl.Vm{Code: move, Arena: room(thing(1, mostCount-1, l...)), Frames: []impl.Frame{frame(0, 0, 0, refTo(0, 1), nilVal(), nilVal())}}
+	v := impl.Vm{Code: move, Arena: famous(mostCount - 2), Frames: []impl.Frame{frame(0, 0, 0, refTo(0, 1), nilVal(), nilVal())}}
+	v.Arena.Slots[0].Count++
 	w, ok := impl.VmStep(v, 0, impl.DoNothing)
 	if !ok || w.Arena.Slots[0].Count != mostCount || w.Frames[0].Regs[1] != refTo(0, 1) {
 		t.Fatalf("counted %d, %v", w.Arena.Slots[0].Count, ok)
 	}
 	x, ok := impl.VmStep(w, 0, impl.DoNothing)
-	if ok || x.Arena.Slots[0].Count != mostCount || x.Frames[0].Pc != 1 || x.Frames[0].Regs[2] != nilVal() || len(x.Arena.Slots[0].Fields) != len(l) {
+	if ok || x.Arena.Slots[0].Count != mostCount || x.Frames[0].Pc != 1 || x.Frames[0].Regs[2] != nilVal() || len(x.Arena.Slots[0].Fields) != mostCount-2 {
 		t.Errorf("one more: counted %d, %v", x.Arena.Slots[0].Count, ok)
-	}
-	x, ok = impl.VmRun(v, 0, nil)
-	if !ok || x.Arena.Slots[0].Count != mostCount || x.Frames[0].Pc != 1 || x.Frames[0].Regs[2] != nilVal() {
-		t.Errorf("VmRun: counted %d, %v", x.Arena.Slots[0].Count, ok)
 	}
 }
 

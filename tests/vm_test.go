@@ -131,6 +131,7 @@ func wantVm(t *testing.T, what string, v impl.Vm, want bool) {
 	if impl.Depth(v) != len(v.Frames) || impl.TopUnit(v) != top || impl.RefRegs(v) != refs {
 		t.Fatalf("%s: Depth %d, TopUnit %d, RefRegs %d; want %d, %d, %d", what, impl.Depth(v), impl.TopUnit(v), impl.RefRegs(v), len(v.Frames), top, refs)
 	}
+	wantVmBack(t, what, v)
 	s, ok := impl.Settle(v)
 	w := copiedVm(v)
 	w.Arena, _ = plainCollect(w.Arena)
@@ -155,6 +156,7 @@ func wantNoVm(t *testing.T, what string, v impl.Vm) {
 		wantNoRun(t, what, v, 9, []int{do})
 	}
 	wantNoRun(t, what, v, mostFuel, nil)
+	wantNoVmBytes(t, what, v)
 }
 
 func wantNoStep(t *testing.T, what string, v impl.Vm, fuel, do int) {
